@@ -1087,8 +1087,11 @@ func TestMountWhateverPartStandsInItsPlace(t *testing.T) {
 	w := newBlockWords(t)
 	for _, l := range w.leaps(t, 17) {
 		parts := 1 << len(l.txn.Outs)
-		// Of more than ten Outs some of the parts, since they are so many.
+		// Of more than ten Outs there are so many parts that only the volumes that are soon read are asked for all of them.
 		step := 1 + parts/2048
+		if len(l.v.Inodes) == 1 {
+			step = 1
+		}
 		for choice := 0; choice < parts; choice += step {
 			if got := mount(l.inPart(choice)); !got.same(l.told()) {
 				t.Fatalf("%s, part %b:\n is   %+v\n want %+v", l.why, choice, got, l.told())
